@@ -1,0 +1,1 @@
+"""Towers that act one behind another, and when all is at rest."""
