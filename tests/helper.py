@@ -1,4 +1,12 @@
-"""What the tests reckon by themselves, from the document's words, and never by the program."""
+"""What the tests reckon by themselves, from the document's words and never by the program, and what they share."""
+
+import contextlib
+import inspect
+import io
+import itertools
+
+ALL_STAY = {1: [2], 2: [10, 12], 3: [170, 204, 240], 4: [43690, 52428, 61680, 65280]}
+GREATEST_RULE = {1: 3, 2: 15, 3: 255, 4: 65535}
 
 
 def states_of(n):
@@ -23,6 +31,19 @@ def states_at_rest(n, t):
     return [s for s in states_of(n) if {j for j in range(n) if s in told[j]} == towers_up(s)]
 
 
+def orders_of(n):
+    return [list(order) for order in itertools.permutations(range(n))]
+
+
+def state_behind_pass(s, t, order):
+    """The flags that are up are kept as towers, which each tower of the order joins or leaves."""
+    up = towers_up(s)
+    for tower in order:
+        seen = sum(2 ** j for j in up)
+        up = up | {tower} if seen in towers_up(t[tower]) else up - {tower}
+    return sum(2 ** j for j in up)
+
+
 def spread(count, below, seed):
     """Numbers that are scattered, yet the same in every run."""
     numbers = []
@@ -33,6 +54,11 @@ def spread(count, below, seed):
     return numbers
 
 
+def scattered_rules(n, count, seed):
+    numbers = spread(n * count, GREATEST_RULE[n] + 1, seed)
+    return [numbers[start:start + n] for start in range(0, len(numbers), n)]
+
+
 class Untouchable(list):
     """A list that tells at once when something is changed in it, even if it's put back later."""
 
@@ -41,3 +67,154 @@ class Untouchable(list):
 
     __setitem__ = __delitem__ = __iadd__ = __imul__ = refuse
     append = extend = insert = pop = remove = clear = sort = reverse = refuse
+
+
+class OrderedRefusals:
+    """The -22 of a call that is handed n, s, t and order; `call` is given by the class that takes this one over."""
+
+    def refused(self, n, s, t, order):
+        self.assertEqual(self.call(n, s, t, order), [-22], (n, s, t, order))
+
+    def taken(self, n, s, t, order):
+        self.assertNotEqual(self.call(n, s, t, order)[0], -22, (n, s, t, order))
+
+    def test_what_is_refused_below_in_one_thing_is_taken_without_it(self):
+        for n, t in ALL_STAY.items():
+            for order in orders_of(n):
+                self.taken(n, 0, t, order)
+
+    def test_n_is_not_1_to_4(self):
+        self.refused(0, 0, [], [])
+        self.refused(5, 0, [0] * 5, [0, 1, 2, 3, 4])
+        for n in (0, 5, 4294967295):
+            for length in range(11):
+                self.refused(n, 0, [0] * length, list(range(length)))
+
+    def test_n_is_another_than_the_lists_are_made_for(self):
+        for n in (1, 2, 3, 4):
+            for other in {1, 2, 3, 4} - {n}:
+                self.refused(other, 0, [0] * n, list(range(n)))
+
+    def test_t_has_too_few_or_too_many_rules(self):
+        for n, t in ALL_STAY.items():
+            for wrong in ([], t[:-1], t[1:], t + [0], t + t[-1:], [0] * 10):
+                self.refused(n, 0, wrong, list(range(n)))
+
+    def test_a_rule_is_too_great(self):
+        for n in (1, 2, 3):
+            for place in range(n):
+                for rule in (GREATEST_RULE[n] + 1, 65535):
+                    t = list(ALL_STAY[n])
+                    t[place] = rule
+                    self.refused(n, 0, t, list(range(n)))
+
+    def test_the_greatest_rule_is_taken(self):
+        for n, rule in GREATEST_RULE.items():
+            for place in range(n):
+                t = list(ALL_STAY[n])
+                t[place] = rule
+                self.taken(n, 0, t, list(range(n)))
+
+    def test_s_is_not_a_state(self):
+        for n, t in ALL_STAY.items():
+            for s in (2 ** n, 2 ** n + 1, 2 ** n + n, 65535, 4294967295):
+                self.refused(n, s, t, list(range(n)))
+
+    def test_the_greatest_state_is_taken(self):
+        for n, t in ALL_STAY.items():
+            for s in states_of(n):
+                self.taken(n, s, t, list(range(n)))
+
+    def test_order_has_too_few_or_too_many_towers(self):
+        for n, t in ALL_STAY.items():
+            for order in orders_of(n):
+                for wrong in ([], order[:-1], order[1:], order + [n], order + [0], [n] + order, order + order):
+                    self.refused(n, 0, t, wrong)
+            self.refused(n, 0, t, list(range(10)))
+            self.refused(n, 0, t, [0] * 10)
+
+    def test_order_has_a_tower_twice(self):
+        for n, t in ALL_STAY.items():
+            for order in itertools.product(range(n), repeat=n):
+                if list(order) not in orders_of(n):
+                    self.refused(n, 0, t, list(order))
+
+    def test_order_has_a_tower_that_is_not_there(self):
+        for n, t in ALL_STAY.items():
+            for order in orders_of(n):
+                for place in range(n):
+                    for tower in (n, 4, 9, 65535):
+                        wrong = list(order)
+                        wrong[place] = tower
+                        self.refused(n, 0, t, wrong)
+
+    def test_several_refusals_are_due(self):
+        self.refused(0, 4294967295, [65535] * 10, [65535] * 10)
+        self.refused(4294967295, 4294967295, [], [])
+        for n in (1, 2, 3):
+            self.refused(n, 2 ** n, [65535] * n, [n] * n)
+
+    def test_numbers_that_are_not_as_told(self):
+        self.refused(-1, 0, [2], [0])
+        self.refused(4294967296, 0, [2], [0])
+        self.refused(4, 0, [0, 0, 0, 65536], [0, 1, 2, 3])
+        self.refused(4, 0, [0] * 11, [0, 1, 2, 3])
+        self.refused(4, 0, [0] * 4, list(range(11)))
+        for n, t in ALL_STAY.items():
+            self.refused(n, -1, t, list(range(n)))
+            self.refused(n, 4294967296, t, list(range(n)))
+            for place in range(n):
+                self.refused(n, 0, [-1 if j == place else 0 for j in range(n)], list(range(n)))
+                self.refused(n, 0, t, [j - n if j == place else j for j in range(n)])
+
+
+class OrderedCalling:
+    """What holds of every call that is handed n, s, t and order; `call` is given as for OrderedRefusals."""
+
+    CALLS = [(n, s, ALL_STAY[n], order) for n in (1, 2, 3, 4) for s in (0, n, 2 ** n - 1) for order in orders_of(n)]
+    CALLS += [(2, s, t, order) for s in range(5) for t in ([3, 5], [12, 5]) for order in ([0, 1], [1, 0])]
+    CALLS += [(0, 0, [], []), (3, 0, [256, 0, 0], [2, 1, 0]), (2, 0, [1] * 10, [0, 1]), (3, 1, [1, 2, 3], [2, 1, 2])]
+
+    def test_names_and_order_of_what_is_handed_in(self):
+        parameters = inspect.signature(self.call).parameters.values()
+        self.assertEqual([p.name for p in parameters], ["n", "s", "t", "order"])
+        self.assertTrue(all(p.default is inspect.Parameter.empty for p in parameters))
+        self.assertEqual(self.call(order=[1, 0], t=[3, 5], s=3, n=2), self.call(2, 3, [3, 5], [1, 0]))
+
+    def test_a_list_of_plain_whole_numbers_is_given_back(self):
+        for n, s, t, order in self.CALLS:
+            answer = self.call(n, s, t, order)
+            self.assertIs(type(answer), list)
+            self.assertEqual({type(number) for number in answer}, {int})
+
+    def test_t_and_order_are_not_changed_not_for_a_while_either(self):
+        for n, s, t, order in self.CALLS:
+            rules, towers = Untouchable(t), Untouchable(order)
+            self.call(n, s, rules, towers)
+            self.assertEqual((list(rules), list(towers)), (t, order))
+
+    def test_nothing_is_kept(self):
+        first = [self.call(n, s, list(t), list(order)) for n, s, t, order in self.CALLS]
+        again = [self.call(n, s, list(t), list(order)) for n, s, t, order in self.CALLS]
+        backwards = [self.call(n, s, list(t), list(order)) for n, s, t, order in reversed(self.CALLS)]
+        self.assertEqual(again, first)
+        self.assertEqual(backwards[::-1], first)
+
+    def test_what_is_done_to_lists_later_leaves_no_trace(self):
+        for n, s, t, order in self.CALLS:
+            rules, towers = list(t), list(order)
+            answer = self.call(n, s, rules, towers)
+            expected = list(answer)
+            answer.append(99)
+            answer[0] = 98
+            self.assertEqual((rules, towers), (t, order))
+            self.assertEqual(self.call(n, s, rules, towers), expected)
+            rules.append(0)
+            self.assertEqual(self.call(n, s, rules, towers), [-22])
+
+    def test_nothing_is_printed(self):
+        out, err = io.StringIO(), io.StringIO()
+        with contextlib.redirect_stdout(out), contextlib.redirect_stderr(err):
+            for n, s, t, order in self.CALLS:
+                self.call(n, s, t, order)
+        self.assertEqual(out.getvalue() + err.getvalue(), "")

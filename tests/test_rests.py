@@ -4,11 +4,9 @@ import io
 import itertools
 import unittest
 
-from tests.helper import Untouchable, rules_that_bring, spread, states_at_rest, states_of
+from tests.helper import (ALL_STAY, GREATEST_RULE, Untouchable, rules_that_bring, spread, states_at_rest,
+                          states_of)
 from towersrest.desk import rests
-
-ALL_STAY = {1: [2], 2: [10, 12], 3: [170, 204, 240], 4: [43690, 52428, 61680, 65280]}
-GREATEST_RULE = {1: 3, 2: 15, 3: 255, 4: 65535}
 
 
 def answer_for(states):

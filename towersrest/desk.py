@@ -24,6 +24,23 @@ def are_towers(n, t):
     return True
 
 
+def is_state(n, s):
+    return s >= 0 and s < power_of_two(n)
+
+
+def is_order(n, order):
+    return sorted(order) == list(range(n))
+
+
+def may_pass(n, s, t, order):
+    # The towers are held first: a great n has no list of towers that could be made here.
+    return are_towers(n, t) and is_state(n, s) and is_order(n, order)
+
+
+def flag_now(state, tower):
+    return (state >> tower) & 1
+
+
 def flag_next(rule, state):
     return (rule >> state) & 1
 
@@ -37,8 +54,26 @@ def all_at_once(t, state):
     return brought
 
 
+def alone(t, tower, state):
+    change = flag_next(t[tower], state) - flag_now(state, tower)
+    return state + change * power_of_two(tower)
+
+
+def one_pass(t, order, state):
+    reached = state
+    for tower in order:
+        reached = alone(t, tower, reached)
+    return reached
+
+
 def rests(n, t):
     if not are_towers(n, t):
         return [REFUSED]
     resting = [state for state in range(power_of_two(n)) if all_at_once(t, state) == state]
     return [len(resting)] + resting
+
+
+def pass_of(n, s, t, order):
+    if not may_pass(n, s, t, order):
+        return [REFUSED]
+    return [one_pass(t, order, s)]
