@@ -44,6 +44,17 @@ def state_behind_pass(s, t, order):
     return sum(2 ** j for j in up)
 
 
+def sweeps_from_each_state(n, t, order):
+    """Gone backwards from the states at rest, a pass each step: what isn't met so never comes to rest."""
+    answers = {s: [0, s] for s in states_at_rest(n, t)}
+    latest = dict(answers)
+    while latest:
+        brought = {s: state_behind_pass(s, t, order) for s in states_of(n) if s not in answers}
+        latest = {s: [latest[to][0] + 1, latest[to][1]] for s, to in brought.items() if to in latest}
+        answers.update(latest)
+    return [answers.get(s, [-33]) for s in states_of(n)]
+
+
 def spread(count, below, seed):
     """Numbers that are scattered, yet the same in every run."""
     numbers = []

@@ -1,6 +1,7 @@
 """The calls on towers whose rules tell from the state whether a flag is up next."""
 
 REFUSED = -22
+NEVER = -33
 MOST_TOWERS = 4
 
 
@@ -54,6 +55,10 @@ def all_at_once(t, state):
     return brought
 
 
+def is_at_rest(t, state):
+    return all_at_once(t, state) == state
+
+
 def alone(t, tower, state):
     change = flag_next(t[tower], state) - flag_now(state, tower)
     return state + change * power_of_two(tower)
@@ -69,7 +74,7 @@ def one_pass(t, order, state):
 def rests(n, t):
     if not are_towers(n, t):
         return [REFUSED]
-    resting = [state for state in range(power_of_two(n)) if all_at_once(t, state) == state]
+    resting = [state for state in range(power_of_two(n)) if is_at_rest(t, state)]
     return [len(resting)] + resting
 
 
@@ -77,3 +82,15 @@ def pass_of(n, s, t, order):
     if not may_pass(n, s, t, order):
         return [REFUSED]
     return [one_pass(t, order, s)]
+
+
+def sweeps(n, s, t, order):
+    if not may_pass(n, s, t, order):
+        return [REFUSED]
+    reached = s
+    # Behind as many passes as there are states, one state has come twice: without rest till then it goes round.
+    for passes in range(power_of_two(n)):
+        if is_at_rest(t, reached):
+            return [passes, reached]
+        reached = one_pass(t, order, reached)
+    return [NEVER]
