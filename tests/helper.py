@@ -55,6 +55,32 @@ def sweeps_from_each_state(n, t, order):
     return [answers.get(s, [-33]) for s in states_of(n)]
 
 
+def orders_that_bring_rest_at_once(n, t):
+    """The orders in which one pass takes the whole of the states into those at rest."""
+    resting = set(states_at_rest(n, t))
+    return [order for order in orders_of(n) if {state_behind_pass(s, t, order) for s in states_of(n)} <= resting]
+
+
+def watched_by(n, rule):
+    """The towers whose flag the rule hangs on: turned over by itself, it somewhere makes another answer."""
+    told = towers_up(rule)
+    return {tower for tower in range(n) for s in states_of(n) if (s in told) != (s ^ 2 ** tower in told)}
+
+
+def orders_with_the_watched_ahead(n, t):
+    """None at all if a tower hangs on itself, by however many others."""
+    watched = [watched_by(n, rule) for rule in t]
+    return [order for order in orders_of(n)
+            if all(watched[tower] <= set(order[:turn]) for turn, tower in enumerate(order))]
+
+
+def rule_watching(n, watched, table):
+    """The rule that reads the flags of the watched towers as a number, and is up if the table counts that number."""
+    told = towers_up(table)
+    return sum(2 ** s for s in states_of(n)
+               if sum(2 ** k for k, tower in enumerate(watched) if tower in towers_up(s)) in told)
+
+
 def spread(count, below, seed):
     """Numbers that are scattered, yet the same in every run."""
     numbers = []
@@ -70,6 +96,24 @@ def scattered_rules(n, count, seed):
     return [numbers[start:start + n] for start in range(0, len(numbers), n)]
 
 
+def scattered_rules_that_watch_few(n, count, seed):
+    """Each tower watches two at most, perhaps itself: with so few of them rest is not as rare as else."""
+    numbers = iter(spread(3 * n * count, 2 ** 12, seed))
+    return [[rule_watching(n, [next(numbers) % n, next(numbers) % n], next(numbers) % 16) for _ in range(n)]
+            for _ in range(count)]
+
+
+def scattered_rules_in_an_order(order, count, seed):
+    """Each tower watches none but those ahead of it in the order, so that none hangs on itself."""
+    n = len(order)
+    numbers = iter(spread(n * count, 2 ** 16, seed))
+    for _ in range(count):
+        t = [0] * n
+        for turn, tower in enumerate(order):
+            t[tower] = rule_watching(n, order[:turn], next(numbers) % 2 ** 2 ** turn)
+        yield t
+
+
 class Untouchable(list):
     """A list that tells at once when something is changed in it, even if it's put back later."""
 
@@ -80,14 +124,24 @@ class Untouchable(list):
     append = extend = insert = pop = remove = clear = sort = reverse = refuse
 
 
-class OrderedRefusals:
-    """The -22 of a call that is handed n, s, t and order; `call` is given by the class that takes this one over."""
+class Handing:
+    """Hands a call what it takes; `call`, and in `names` what it takes, are given by the class that takes this over."""
 
+    def ask(self, n, s, t, order):
+        handed = {"n": n, "s": s, "t": t, "order": order}
+        return self.call(*[handed[name] for name in self.names])
+
+
+class Refusing(Handing):
     def refused(self, n, s, t, order):
-        self.assertEqual(self.call(n, s, t, order), [-22], (n, s, t, order))
+        self.assertEqual(self.ask(n, s, t, order), [-22], (n, s, t, order))
 
     def taken(self, n, s, t, order):
-        self.assertNotEqual(self.call(n, s, t, order)[0], -22, (n, s, t, order))
+        self.assertNotEqual(self.ask(n, s, t, order)[0], -22, (n, s, t, order))
+
+
+class TowersRefusals(Refusing):
+    """The -22 for n and for t."""
 
     def test_what_is_refused_below_in_one_thing_is_taken_without_it(self):
         for n, t in ALL_STAY.items():
@@ -126,6 +180,25 @@ class OrderedRefusals:
                 t[place] = rule
                 self.taken(n, 0, t, list(range(n)))
 
+    def test_several_refusals_are_due(self):
+        self.refused(0, 4294967295, [65535] * 10, [65535] * 10)
+        self.refused(4294967295, 4294967295, [], [])
+        for n in (1, 2, 3):
+            self.refused(n, 2 ** n, [65535] * n, [n] * n)
+
+    def test_numbers_of_n_and_t_that_are_not_as_told(self):
+        self.refused(-1, 0, [2], [0])
+        self.refused(4294967296, 0, [2], [0])
+        self.refused(4, 0, [0, 0, 0, 65536], [0, 1, 2, 3])
+        self.refused(4, 0, [0] * 11, [0, 1, 2, 3])
+        for n in (1, 2, 3, 4):
+            for place in range(n):
+                self.refused(n, 0, [-1 if j == place else 0 for j in range(n)], list(range(n)))
+
+
+class StateRefusals(Refusing):
+    """The -22 for s."""
+
     def test_s_is_not_a_state(self):
         for n, t in ALL_STAY.items():
             for s in (2 ** n, 2 ** n + 1, 2 ** n + n, 65535, 4294967295):
@@ -135,6 +208,15 @@ class OrderedRefusals:
         for n, t in ALL_STAY.items():
             for s in states_of(n):
                 self.taken(n, s, t, list(range(n)))
+
+    def test_numbers_of_s_that_are_not_as_told(self):
+        for n, t in ALL_STAY.items():
+            self.refused(n, -1, t, list(range(n)))
+            self.refused(n, 4294967296, t, list(range(n)))
+
+
+class OrderRefusals(Refusing):
+    """The -22 for order."""
 
     def test_order_has_too_few_or_too_many_towers(self):
         for n, t in ALL_STAY.items():
@@ -159,28 +241,15 @@ class OrderedRefusals:
                         wrong[place] = tower
                         self.refused(n, 0, t, wrong)
 
-    def test_several_refusals_are_due(self):
-        self.refused(0, 4294967295, [65535] * 10, [65535] * 10)
-        self.refused(4294967295, 4294967295, [], [])
-        for n in (1, 2, 3):
-            self.refused(n, 2 ** n, [65535] * n, [n] * n)
-
-    def test_numbers_that_are_not_as_told(self):
-        self.refused(-1, 0, [2], [0])
-        self.refused(4294967296, 0, [2], [0])
-        self.refused(4, 0, [0, 0, 0, 65536], [0, 1, 2, 3])
-        self.refused(4, 0, [0] * 11, [0, 1, 2, 3])
+    def test_numbers_of_order_that_are_not_as_told(self):
         self.refused(4, 0, [0] * 4, list(range(11)))
         for n, t in ALL_STAY.items():
-            self.refused(n, -1, t, list(range(n)))
-            self.refused(n, 4294967296, t, list(range(n)))
             for place in range(n):
-                self.refused(n, 0, [-1 if j == place else 0 for j in range(n)], list(range(n)))
                 self.refused(n, 0, t, [j - n if j == place else j for j in range(n)])
 
 
-class OrderedCalling:
-    """What holds of every call that is handed n, s, t and order; `call` is given as for OrderedRefusals."""
+class PlainCalling(Handing):
+    """What the interface says of every call."""
 
     CALLS = [(n, s, ALL_STAY[n], order) for n in (1, 2, 3, 4) for s in (0, n, 2 ** n - 1) for order in orders_of(n)]
     CALLS += [(2, s, t, order) for s in range(5) for t in ([3, 5], [12, 5]) for order in ([0, 1], [1, 0])]
@@ -188,44 +257,46 @@ class OrderedCalling:
 
     def test_names_and_order_of_what_is_handed_in(self):
         parameters = inspect.signature(self.call).parameters.values()
-        self.assertEqual([p.name for p in parameters], ["n", "s", "t", "order"])
+        self.assertEqual([p.name for p in parameters], self.names)
         self.assertTrue(all(p.default is inspect.Parameter.empty for p in parameters))
-        self.assertEqual(self.call(order=[1, 0], t=[3, 5], s=3, n=2), self.call(2, 3, [3, 5], [1, 0]))
+        handed = {"order": [1, 0], "t": [3, 5], "s": 3, "n": 2}
+        by_name = {name: value for name, value in handed.items() if name in self.names}
+        self.assertEqual(self.call(**by_name), self.ask(2, 3, [3, 5], [1, 0]))
 
     def test_a_list_of_plain_whole_numbers_is_given_back(self):
         for n, s, t, order in self.CALLS:
-            answer = self.call(n, s, t, order)
+            answer = self.ask(n, s, t, order)
             self.assertIs(type(answer), list)
             self.assertEqual({type(number) for number in answer}, {int})
 
-    def test_t_and_order_are_not_changed_not_for_a_while_either(self):
+    def test_lists_are_not_changed_not_for_a_while_either(self):
         for n, s, t, order in self.CALLS:
             rules, towers = Untouchable(t), Untouchable(order)
-            self.call(n, s, rules, towers)
+            self.ask(n, s, rules, towers)
             self.assertEqual((list(rules), list(towers)), (t, order))
 
     def test_nothing_is_kept(self):
-        first = [self.call(n, s, list(t), list(order)) for n, s, t, order in self.CALLS]
-        again = [self.call(n, s, list(t), list(order)) for n, s, t, order in self.CALLS]
-        backwards = [self.call(n, s, list(t), list(order)) for n, s, t, order in reversed(self.CALLS)]
+        first = [self.ask(n, s, list(t), list(order)) for n, s, t, order in self.CALLS]
+        again = [self.ask(n, s, list(t), list(order)) for n, s, t, order in self.CALLS]
+        backwards = [self.ask(n, s, list(t), list(order)) for n, s, t, order in reversed(self.CALLS)]
         self.assertEqual(again, first)
         self.assertEqual(backwards[::-1], first)
 
     def test_what_is_done_to_lists_later_leaves_no_trace(self):
         for n, s, t, order in self.CALLS:
             rules, towers = list(t), list(order)
-            answer = self.call(n, s, rules, towers)
+            answer = self.ask(n, s, rules, towers)
             expected = list(answer)
             answer.append(99)
             answer[0] = 98
             self.assertEqual((rules, towers), (t, order))
-            self.assertEqual(self.call(n, s, rules, towers), expected)
+            self.assertEqual(self.ask(n, s, rules, towers), expected)
             rules.append(0)
-            self.assertEqual(self.call(n, s, rules, towers), [-22])
+            self.assertEqual(self.ask(n, s, rules, towers), [-22])
 
     def test_nothing_is_printed(self):
         out, err = io.StringIO(), io.StringIO()
         with contextlib.redirect_stdout(out), contextlib.redirect_stderr(err):
             for n, s, t, order in self.CALLS:
-                self.call(n, s, t, order)
+                self.ask(n, s, t, order)
         self.assertEqual(out.getvalue() + err.getvalue(), "")

@@ -1,8 +1,8 @@
 import itertools
 import unittest
 
-from tests.helper import (ALL_STAY, GREATEST_RULE, OrderedCalling, OrderedRefusals, orders_of, scattered_rules,
-                          state_behind_pass, states_at_rest, states_of)
+from tests.helper import (ALL_STAY, GREATEST_RULE, OrderRefusals, PlainCalling, StateRefusals, TowersRefusals,
+                          orders_of, scattered_rules, state_behind_pass, states_at_rest, states_of)
 from towersrest.desk import pass_of
 
 
@@ -92,12 +92,14 @@ class WhatHolds(unittest.TestCase):
                     self.assertEqual(pass_of(n, s, t, order) == [s], s in resting, (n, s, t, order))
 
 
-class Refusals(OrderedRefusals, unittest.TestCase):
+class Refusals(TowersRefusals, StateRefusals, OrderRefusals, unittest.TestCase):
     call = staticmethod(pass_of)
+    names = ["n", "s", "t", "order"]
 
 
-class Calling(OrderedCalling, unittest.TestCase):
+class Calling(PlainCalling, unittest.TestCase):
     call = staticmethod(pass_of)
+    names = ["n", "s", "t", "order"]
 
 
 if __name__ == "__main__":

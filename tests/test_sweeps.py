@@ -1,8 +1,9 @@
 import itertools
 import unittest
 
-from tests.helper import (ALL_STAY, GREATEST_RULE, OrderedCalling, OrderedRefusals, orders_of, scattered_rules,
-                          state_behind_pass, states_at_rest, states_of, sweeps_from_each_state)
+from tests.helper import (ALL_STAY, GREATEST_RULE, OrderRefusals, PlainCalling, StateRefusals, TowersRefusals,
+                          orders_of, scattered_rules, state_behind_pass, states_at_rest, states_of,
+                          sweeps_from_each_state)
 from towersrest.desk import sweeps
 
 # Rules, an order, and the state from which rest comes only when all other states have come.
@@ -131,8 +132,9 @@ class WhatHolds(unittest.TestCase):
             self.assertEqual(sweeps(n, s, t, order), [-33], (n, s, t, order))
 
 
-class Refusals(OrderedRefusals, unittest.TestCase):
+class Refusals(TowersRefusals, StateRefusals, OrderRefusals, unittest.TestCase):
     call = staticmethod(sweeps)
+    names = ["n", "s", "t", "order"]
 
     def test_minus_22_comes_ahead_of_minus_33(self):
         # One tower that turns its own flag never comes to rest.
@@ -147,8 +149,9 @@ class Refusals(OrderedRefusals, unittest.TestCase):
         self.refused(1, 0, [1], [0, 0])
 
 
-class Calling(OrderedCalling, unittest.TestCase):
+class Calling(PlainCalling, unittest.TestCase):
     call = staticmethod(sweeps)
+    names = ["n", "s", "t", "order"]
 
 
 if __name__ == "__main__":

@@ -71,6 +71,26 @@ def one_pass(t, order, state):
     return reached
 
 
+def all_orders(n):
+    # Each beginning is drawn out by the lesser tower first, so that the orders come as the lesser tower puts them.
+    orders = [[]]
+    for turn in range(n):
+        longer = []
+        for order in orders:
+            for tower in range(n):
+                if tower not in order:
+                    longer.append(order + [tower])
+        orders = longer
+    return orders
+
+
+def brings_rest_at_once(n, t, order):
+    for state in range(power_of_two(n)):
+        if not is_at_rest(t, one_pass(t, order, state)):
+            return False
+    return True
+
+
 def rests(n, t):
     if not are_towers(n, t):
         return [REFUSED]
@@ -94,3 +114,12 @@ def sweeps(n, s, t, order):
             return [passes, reached]
         reached = one_pass(t, order, reached)
     return [NEVER]
+
+
+def best(n, t):
+    if not are_towers(n, t):
+        return [REFUSED]
+    enough = [order for order in all_orders(n) if brings_rest_at_once(n, t, order)]
+    if len(enough) == 0:
+        return [NEVER]
+    return [len(enough)] + enough[0]
