@@ -61,6 +61,20 @@ def orders_that_bring_rest_at_once(n, t):
     return [order for order in orders_of(n) if {state_behind_pass(s, t, order) for s in states_of(n)} <= resting]
 
 
+def states_that_passes_bring(n, s, t):
+    """Gone by which towers have acted, not by orders: each of them may have been the last to act."""
+    brought = {frozenset(): {s}}
+    for size in range(1, n + 1):
+        for acted in map(frozenset, itertools.combinations(range(n), size)):
+            brought[acted] = {state_behind_pass(ahead, t, [last])
+                              for last in acted for ahead in brought[acted - {last}]}
+    return sorted(brought[frozenset(range(n))])
+
+
+def state_all_at_once(n, s, t):
+    return sum(2 ** tower for tower in range(n) if s in towers_up(t[tower]))
+
+
 def watched_by(n, rule):
     """The towers whose flag the rule hangs on: turned over by itself, it somewhere makes another answer."""
     told = towers_up(rule)
@@ -101,6 +115,15 @@ def scattered_rules_that_watch_few(n, count, seed):
     numbers = iter(spread(3 * n * count, 2 ** 12, seed))
     return [[rule_watching(n, [next(numbers) % n, next(numbers) % n], next(numbers) % 16) for _ in range(n)]
             for _ in range(count)]
+
+
+def scattered_rules_one_flag_short_of_rest(n, s, tower, count, seed):
+    """In state s the tower's flag alone would change, and then none; what other states bring is scattered."""
+    numbers = spread(count * 2 ** n, 2 ** n, seed)
+    for start in range(0, len(numbers), 2 ** n):
+        brought = numbers[start:start + 2 ** n]
+        brought[s] = brought[s ^ 2 ** tower] = s ^ 2 ** tower
+        yield rules_that_bring(brought)
 
 
 def scattered_rules_in_an_order(order, count, seed):

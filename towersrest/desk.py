@@ -33,9 +33,14 @@ def is_order(n, order):
     return sorted(order) == list(range(n))
 
 
+def may_begin(n, s, t):
+    # The towers are held first: how many states a great n has could not be reckoned here.
+    return are_towers(n, t) and is_state(n, s)
+
+
 def may_pass(n, s, t, order):
-    # The towers are held first: a great n has no list of towers that could be made here.
-    return are_towers(n, t) and is_state(n, s) and is_order(n, order)
+    # The order is held last: a great n has no list of towers that could be made here.
+    return may_begin(n, s, t) and is_order(n, order)
 
 
 def flag_now(state, tower):
@@ -72,7 +77,7 @@ def one_pass(t, order, state):
 
 
 def all_orders(n):
-    # Each beginning is drawn out by the lesser tower first, so that the orders come as the lesser tower puts them.
+    # Each beginning goes on with the lesser tower first, so that the orders come in order.
     orders = [[]]
     for turn in range(n):
         longer = []
@@ -123,3 +128,10 @@ def best(n, t):
     if len(enough) == 0:
         return [NEVER]
     return [len(enough)] + enough[0]
+
+
+def brings(n, s, t):
+    if not may_begin(n, s, t):
+        return [REFUSED]
+    brought = sorted(set([one_pass(t, order, s) for order in all_orders(n)]))
+    return [len(brought)] + brought
